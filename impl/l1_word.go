@@ -2,6 +2,7 @@ package impl
 
 import (
 	"bytes"
+	"iter"
 	"slices"
 	"strings"
 )
@@ -31,9 +32,8 @@ func RunsOf(w string) ([][]int, bool) {
 	if !IsWord(w) {
 		return nil, false
 	}
-	parts := runParts([]byte(w))
-	runs := make([][]int, 0, len(parts))
-	for _, part := range parts {
+	runs := [][]int{}
+	for part := range runParts([]byte(w)) {
 		runs = append(runs, []int{digitOf(part[0]), len(part)})
 	}
 	return runs, true
@@ -122,7 +122,11 @@ func LengthSaid(w string) (int, bool) {
 	if speakable, _ := IsSpeakable(w); !speakable {
 		return 0, false
 	}
-	return 2 * len(runParts([]byte(w))), true
+	length := 0
+	for range runParts([]byte(w)) {
+		length += 2
+	}
+	return length, true
 }
 
 // CountDigit returns how often a digit is in a word.
@@ -205,7 +209,7 @@ func LongestRun(w string) (int, bool) {
 		return 0, false
 	}
 	longest := 0
-	for _, part := range runParts([]byte(w)) {
+	for part := range runParts([]byte(w)) {
 		longest = max(longest, len(part))
 	}
 	return longest, true
@@ -223,17 +227,21 @@ func SumOfWord(w string) (int, bool) {
 	return sum, true
 }
 
-// runParts cuts signs into its runs. No part has room behind it: appending to one would write into the next.
-func runParts(signs []byte) [][]byte {
-	parts := make([][]byte, 0, len(signs))
-	start := 0
-	for end := 1; end <= len(signs); end++ {
-		if end == len(signs) || signs[end] != signs[start] {
-			parts = append(parts, signs[start:end:end])
+// runParts tells the runs of signs one by one, so that saying needs no list of them.
+// No part has room behind it: appending to one would write into the next.
+func runParts(signs []byte) iter.Seq[[]byte] {
+	return func(yield func([]byte) bool) {
+		start := 0
+		for end := 1; end <= len(signs); end++ {
+			if end < len(signs) && signs[end] == signs[start] {
+				continue
+			}
+			if !yield(signs[start:end:end]) {
+				return
+			}
 			start = end
 		}
 	}
-	return parts
 }
 
 // sayText says a text of runs that are short enough; what is said may be longer than a word.
@@ -244,7 +252,7 @@ func sayText(w string) string {
 			said = append(said, part...)
 		}
 	}
-	for _, run := range runParts([]byte(w)) {
+	for run := range runParts([]byte(w)) {
 		join([]byte{signOf(len(run))}, run[:1:1])
 	}
 	return string(said)
