@@ -104,16 +104,7 @@ func WayOfWord(w string, times int) ([]string, bool) {
 	if !IsWord(w) || !isWithin(times, 0, MaxTimes) {
 		return nil, false
 	}
-	way := make([]string, 0, times+1)
-	way = append(way, strings.Clone(w))
-	for at := range times {
-		said, ok := SayWord(way[at])
-		if !ok {
-			return nil, false
-		}
-		way = append(way, said)
-	}
-	return way, true
+	return wayFrom(strings.Clone(w), times, SayWord)
 }
 
 // LengthSaid returns how many digits the said word has: twice the number of runs.
@@ -225,6 +216,20 @@ func SumOfWord(w string) (int, bool) {
 		sum += digitOf(w[at])
 	}
 	return sum, true
+}
+
+// wayFrom returns what there is first, what it is changed into, and so on, up to that behind so many times.
+func wayFrom[T any](first T, times int, change func(T) (T, bool)) ([]T, bool) {
+	way := make([]T, 0, times+1)
+	way = append(way, first)
+	for at := range times {
+		next, ok := change(way[at])
+		if !ok {
+			return nil, false
+		}
+		way = append(way, next)
+	}
+	return way, true
 }
 
 // runParts tells the runs of signs one by one, so that saying needs no list of them.
