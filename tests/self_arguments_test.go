@@ -7,8 +7,8 @@ import (
 	"loop.example/g01240/impl"
 )
 
-// selfCall is a function of chapter 5 that takes one number, and the bounds of this.
-type selfCall struct {
+// boundedCall is a function that takes a number, and the bounds of this.
+type boundedCall struct {
 	name        string
 	from, to    int
 	call        func(n int) []any
@@ -16,9 +16,9 @@ type selfCall struct {
 }
 
 // selfCalls holds each function of chapter 5 that takes one number.
-func selfCalls() []selfCall {
+func selfCalls() []boundedCall {
 	all := func(results ...any) []any { return results }
-	return []selfCall{
+	return []boundedCall{
 		{"GolombOf", 1, 3000, func(n int) []any { return all(impl.GolombOf(n)) }, false},
 		{"GolombList", 1, 3000, func(n int) []any { return all(impl.GolombList(n)) }, false},
 		{"GolombTimes", 1, 3000, func(n int) []any { return all(impl.GolombTimes(n)) }, false},
@@ -47,8 +47,14 @@ func TestConstantsOfChapter5(t *testing.T) {
 func TestNumbersOfChapter5AreBounded(t *testing.T) {
 	numbers := append(slices.Clone(extremeNumbers), -3000, -1000, -2, 3, 999, 1000, 1001, 2999, 3000, 3001, 6000, 99999, 100000, 100001,
 		999999999, 1000000000, 1000000001, 1<<30, 1<<31, 1<<32+1, 1<<40+5, 1<<62, -1<<31, -1<<32+1)
-	for _, c := range selfCalls() {
-		for _, n := range append(numbers, c.from-1, c.from, c.from+1, c.to-1, c.to, c.to+1) {
+	checkBounds(t, selfCalls(), numbers)
+}
+
+// checkBounds calls with numbers of all kinds, and with those at the bounds of each call.
+func checkBounds(t *testing.T, calls []boundedCall, numbers []int) {
+	t.Helper()
+	for _, c := range calls {
+		for _, n := range append(slices.Clone(numbers), c.from-1, c.from, c.from+1, c.to-1, c.to, c.to+1) {
 			results := c.call(n)
 			want := c.from <= n && n <= c.to
 			if ok := results[len(results)-1].(bool); ok != want {

@@ -172,7 +172,6 @@ func TestResultsOfChapter3AreNew(t *testing.T) {
 	}
 }
 
-// TestListsOfResultsShareNoMemory overwrites each list with all its room: the other lists and the argument have to stay.
 func TestListsOfResultsShareNoMemory(t *testing.T) {
 	argument := []int{2, 0, 1}
 	calls := map[string]func() [][]int{
@@ -180,6 +179,13 @@ func TestListsOfResultsShareNoMemory(t *testing.T) {
 		"WayOfTelling": func() [][]int { way, _ := impl.WayOfTelling(argument, 8); return way },
 		"TellList":     func() [][]int { numbers, _ := impl.TellList(argument); return [][]int{numbers} },
 	}
+	checkNoneShared(t, argument, calls)
+}
+
+// checkNoneShared overwrites each list with all its room: the other lists and the argument have to stay.
+func checkNoneShared(t *testing.T, argument []int, calls map[string]func() [][]int) {
+	t.Helper()
+	before := slices.Clone(argument)
 	for name, call := range calls {
 		for at := range call() {
 			lists, want := call(), call()
@@ -190,7 +196,7 @@ func TestListsOfResultsShareNoMemory(t *testing.T) {
 			if !slices.EqualFunc(lists, want, slices.Equal) {
 				t.Errorf("%s: list %d shares memory with another: %v, want %v", name, at, lists, want)
 			}
-			if !slices.Equal(argument, []int{2, 0, 1}) {
+			if !slices.Equal(argument, before) {
 				t.Fatalf("%s: list %d shares memory with the argument", name, at)
 			}
 		}
